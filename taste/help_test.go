@@ -2,6 +2,7 @@ package taste_test
 
 import (
 	"senvy/api"
+	"senvy/dice"
 )
 
 func to(lo, hi int64) api.Range { return api.Range{Lo: lo, Hi: hi} }
@@ -59,59 +60,49 @@ func places(b api.TasteBook) []place {
 	return out
 }
 
-// dice throws numbers that are the same in each run.
-type dice uint64
-
-func (d *dice) below(n int) int {
-	*d = *d*6364136223846793005 + 1442695040888963407
-	return int(uint64(*d) >> 33 % uint64(n))
-}
-
-func (d *dice) from(lo, hi int64) int64 { return lo + int64(d.below(int(hi-lo+1))) }
-
 // said limits a number to what a taste can say.
 func said(n int64) int64 { return min(max(n, -api.MaxTasteSharp), api.MaxTasteSharp) }
 
 // tastesNear throws a sitting of so many tastes, each said near lots that are as sharp as given: off by so much, and wider by so much.
-func (d *dice) tastesNear(b api.TasteBook, sharp []int64, tastes int, off, wide int64) []api.TasteSaid {
+func tastesNear(d *dice.Dice, b api.TasteBook, sharp []int64, tastes int, off, wide int64) []api.TasteSaid {
 	var s []api.TasteSaid
 	var tired int64
 	for range tastes {
-		lot := d.below(b.Lots)
-		n := sharp[lot] - tired + d.from(-off, off)
-		s = append(s, api.TasteSaid{Lot: lot, Said: to(said(n-d.from(0, wide)), said(n+d.from(0, wide)))})
-		tired += d.from(b.Rate.Lo, b.Rate.Hi)
+		lot := d.Below(b.Lots)
+		n := sharp[lot] - tired + d.From(-off, off)
+		s = append(s, api.TasteSaid{Lot: lot, Said: to(said(n-d.From(0, wide)), said(n+d.From(0, wide)))})
+		tired += d.From(b.Rate.Lo, b.Rate.Hi)
 	}
 	return s
 }
 
 // small throws a book of at most five tastes whose truths can all be tried.
-func small(d *dice) api.TasteBook {
-	lo := d.from(0, 3)
-	b := book(lo, lo+d.from(0, 2), 1+d.below(3))
-	base := []int64{0, 5, 500, 995, 1000}[d.below(5)]
+func small(d *dice.Dice) api.TasteBook {
+	lo := d.From(0, 3)
+	b := book(lo, lo+d.From(0, 2), 1+d.Below(3))
+	base := []int64{0, 5, 500, 995, 1000}[d.Below(5)]
 	var sharp []int64
 	for range b.Lots {
-		sharp = append(sharp, base+d.from(-2, 2))
+		sharp = append(sharp, base+d.From(-2, 2))
 	}
 	for left := 5; left > 0 && len(b.Sittings) < 3; {
-		s := d.tastesNear(b, sharp, 1+d.below(left), 2, 2)
+		s := tastesNear(d, b, sharp, 1+d.Below(left), 2, 2)
 		b.Sittings = append(b.Sittings, s)
-		left -= len(s) + d.below(2)
+		left -= len(s) + d.Below(2)
 	}
 	return b
 }
 
 // large throws a book up to the limits of the chapter.
-func large(d *dice) api.TasteBook {
-	lo := d.from(0, api.MaxTasteRate)
-	b := book(lo, d.from(lo, api.MaxTasteRate), 1+d.below(api.MaxTasteLots))
+func large(d *dice.Dice) api.TasteBook {
+	lo := d.From(0, api.MaxTasteRate)
+	b := book(lo, d.From(lo, api.MaxTasteRate), 1+d.Below(api.MaxTasteLots))
 	var sharp []int64
 	for range b.Lots {
-		sharp = append(sharp, d.from(0, api.MaxTasteSharp))
+		sharp = append(sharp, d.From(0, api.MaxTasteSharp))
 	}
-	for left := api.MaxTastes; len(b.Sittings) < api.MaxTasteSittings && left > 0 && d.below(6) > 0; {
-		s := d.tastesNear(b, sharp, 1+d.below(left), 3, 9)
+	for left := api.MaxTastes; len(b.Sittings) < api.MaxTasteSittings && left > 0 && d.Below(6) > 0; {
+		s := tastesNear(d, b, sharp, 1+d.Below(left), 3, 9)
 		b.Sittings = append(b.Sittings, s)
 		left -= len(s)
 	}

@@ -9,6 +9,7 @@ import (
 	"testing"
 
 	"senvy/api"
+	"senvy/dice"
 	"senvy/taste"
 )
 
@@ -37,27 +38,27 @@ func tell(b api.TasteBook, sharp, tired []int64, round []int, one, two int) stri
 
 // TestAnyArguments is P1: no arguments make a function panic or run without end.
 func TestAnyArguments(t *testing.T) {
-	d := dice(7)
+	d := dice.Dice(7)
 	ends := []int64{math.MinInt64, math.MinInt64 + 1, -1001, -1000, -1, 0, 1, 2, 5, 6, 7, 50, 51, 1000, 1001, math.MaxInt64 - 1, math.MaxInt64}
-	end := func() int64 { return ends[d.below(len(ends))] }
+	end := func() int64 { return ends[d.Below(len(ends))] }
 	mild := func() int64 {
-		if d.below(8) > 0 {
-			return d.from(0, 6)
+		if d.Below(8) > 0 {
+			return d.From(0, 6)
 		}
 		return end()
 	}
 	list := func() []int64 {
 		var out []int64
-		for range d.below(6) {
+		for range d.Below(6) {
 			out = append(out, mild())
 		}
 		return out
 	}
 	for range 3000 {
 		b := book(mild(), mild(), int(mild()))
-		for range d.below(6) {
+		for range d.Below(6) {
 			var s []api.TasteSaid
-			for range d.below(6) {
+			for range d.Below(6) {
 				s = append(s, api.TasteSaid{Lot: int(mild()), Said: to(mild(), mild())})
 			}
 			b.Sittings = append(b.Sittings, s)

@@ -5,13 +5,14 @@ import (
 	"testing"
 
 	"senvy/api"
+	"senvy/dice"
 	"senvy/taste"
 )
 
 // smalls returns small books with what trying all their truths finds; about half of them have a truth.
 func smalls(t *testing.T, n int) ([]api.TasteBook, []answer) {
 	t.Helper()
-	d := dice(1)
+	d := dice.Dice(1)
 	var books []api.TasteBook
 	var answers []answer
 	truths := 0
@@ -34,7 +35,7 @@ func smalls(t *testing.T, n int) ([]api.TasteBook, []answer) {
 
 func larges(t *testing.T, n int) []api.TasteBook {
 	t.Helper()
-	d := dice(2)
+	d := dice.Dice(2)
 	var books []api.TasteBook
 	truths := 0
 	for range n {
@@ -179,16 +180,16 @@ func TestSpanEnds(t *testing.T) {
 }
 
 // someTruths returns some truths of a small book: sharpness and tiredness by turns.
-func someTruths(b api.TasteBook, d *dice) [][2][]int64 {
+func someTruths(b api.TasteBook, d *dice.Dice) [][2][]int64 {
 	var out [][2][]int64
 	everyTired(b, func(tired []int64) {
 		lots, ok := box(b, tired, -1)
-		if !ok || d.below(4) > 0 && len(out) > 0 {
+		if !ok || d.Below(4) > 0 && len(out) > 0 {
 			return
 		}
 		var sharp []int64
 		for _, r := range lots {
-			sharp = append(sharp, d.from(r.Lo, r.Hi))
+			sharp = append(sharp, d.From(r.Lo, r.Hi))
 		}
 		out = append(out, [2][]int64{sharp, slices.Clone(tired)})
 	})
@@ -210,7 +211,7 @@ func greatest(n int64, more ...int64) int64 { return max(n, slices.Max(more)) }
 // TestTwoTruths is P1.9.
 func TestTwoTruths(t *testing.T) {
 	books, answers := smalls(t, 600)
-	d := dice(3)
+	d := dice.Dice(3)
 	for i, b := range books {
 		if !answers[i].truth {
 			continue
@@ -255,7 +256,7 @@ func TestApart(t *testing.T) {
 }
 
 // narrower returns books that say more than a book: a narrower Said, a narrower Rate, or one more taste at the end of a sitting.
-func narrower(b api.TasteBook, d *dice) []api.TasteBook {
+func narrower(b api.TasteBook, d *dice.Dice) []api.TasteBook {
 	var out []api.TasteBook
 	if r := b.Rate; r.Lo < r.Hi {
 		low, high := clone(b), clone(b)
@@ -275,7 +276,7 @@ func narrower(b api.TasteBook, d *dice) []api.TasteBook {
 		if len(places(b)) < api.MaxTastes {
 			more := clone(b)
 			end := s[len(s)-1]
-			more.Sittings[i] = append(more.Sittings[i], api.TasteSaid{Lot: d.below(b.Lots), Said: to(max(end.Said.Lo-60, -1000), end.Said.Hi)})
+			more.Sittings[i] = append(more.Sittings[i], api.TasteSaid{Lot: d.Below(b.Lots), Said: to(max(end.Said.Lo-60, -1000), end.Said.Hi)})
 			out = append(out, more)
 		}
 	}
@@ -285,7 +286,7 @@ func narrower(b api.TasteBook, d *dice) []api.TasteBook {
 // TestNarrower is P1.11.
 func TestNarrower(t *testing.T) {
 	books, _ := smalls(t, 300)
-	d := dice(4)
+	d := dice.Dice(4)
 	compared := 0
 	for _, b := range append(books, larges(t, 150)...) {
 		for _, n := range narrower(b, &d) {
@@ -349,14 +350,14 @@ func moved(b api.TasteBook, lot int, by int64) (api.TasteBook, bool) {
 // TestMoved is P1.13.
 func TestMoved(t *testing.T) {
 	books, answers := smalls(t, 600)
-	d := dice(5)
+	d := dice.Dice(5)
 	compared := 0
 	for i, b := range books {
 		if !answers[i].truth {
 			continue
 		}
 		for _, truth := range someTruths(b, &d) {
-			lot, by := d.below(b.Lots), d.from(-400, 400)
+			lot, by := d.Below(b.Lots), d.From(-400, 400)
 			m, ok := moved(b, lot, by)
 			truth[0][lot] += by
 			if n := truth[0][lot]; !ok || n < 0 || n > 1000 {
@@ -379,11 +380,11 @@ func TestMoved(t *testing.T) {
 // TestSittings is P1.14.
 func TestSittings(t *testing.T) {
 	books, _ := smalls(t, 600)
-	d := dice(6)
+	d := dice.Dice(6)
 	for _, b := range append(books, larges(t, 600)...) {
 		other := clone(b)
 		for i := range other.Sittings {
-			k := d.below(i + 1)
+			k := d.Below(i + 1)
 			other.Sittings[i], other.Sittings[k] = other.Sittings[k], other.Sittings[i]
 		}
 		if hasTruth(b) != hasTruth(other) {
